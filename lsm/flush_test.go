@@ -423,18 +423,21 @@ func TestTheMostVersionsOfAKey(t *testing.T) {
 
 // TestErrorsOfFlushInTheirOrder: to each call several of them apply (rule 1).
 func TestErrorsOfFlushInTheirOrder(t *testing.T) {
-	// That a list is too long comes ahead of what the file system says.
+	// That a list is too long comes ahead of what is the matter with the files, behind that the file system is off.
 	f := newFS(t, 1<<16)
 	written(t, f, api.Edit{Log: 1, Seq: 0, Next: 999999})
 	s := opened(t, f, usual())
 	applied(t, s, "a=1")
 	holding(t, f, segment(2), nil)
 	fill(t, f, 0)
-	off(t, f)
-	answers(t, "too long, off", s.Flush(), api.ErrLong)
-	answers(t, "Stopped", s.Stopped(), api.OK)
-	done(t, f.Crash(0, 0))
 	answers(t, "too long, held, full", s.Flush(), api.ErrLong)
+	answers(t, "Stopped", s.Stopped(), api.OK)
+	off(t, f)
+	answers(t, "too long, held, full, off", s.Flush(), api.ErrOff)
+	f, s = begun(t, usual())
+	answers(t, "nothing to do", s.Flush(), api.OK)
+	off(t, f)
+	answers(t, "nothing to do, off", s.Flush(), api.ErrOff)
 	// That a segment is held comes ahead of there being no room; that it is off comes ahead of both.
 	for _, c := range []struct {
 		held, off bool

@@ -110,8 +110,8 @@ func (s *model) met(e api.Errno) api.Errno {
 }
 
 func (s *model) Apply(l []api.Write) (int, api.Errno) {
-	if s.stop != api.OK {
-		return 0, s.stop
+	if e := s.Stopped(); e != api.OK {
+		return 0, e
 	}
 	seq, e := s.w.Append(l)
 	if e == api.OK {
@@ -141,8 +141,8 @@ func (s *model) state(seq int) map[string]string {
 
 // may says why the state at seq may not be asked for.
 func (s *model) may(seq int) api.Errno {
-	if s.stop != api.OK {
-		return s.stop
+	if e := s.Stopped(); e != api.OK {
+		return e
 	}
 	if seq > s.w.Seq() || seq < s.passed && !slices.Contains(s.taken, seq) {
 		return api.ErrStale
@@ -169,23 +169,23 @@ func (s *model) Scan(span api.Span, seq, most int) ([]api.KV, api.Errno) {
 }
 
 func (s *model) Seq() int {
-	if s.stop != api.OK {
+	if s.Stopped() != api.OK {
 		return 0
 	}
 	return s.w.Seq()
 }
 
 func (s *model) Snapshot() (int, api.Errno) {
-	if s.stop != api.OK {
-		return 0, s.stop
+	if e := s.Stopped(); e != api.OK {
+		return 0, e
 	}
 	s.taken = append(s.taken, s.w.Seq())
 	return s.w.Seq(), api.OK
 }
 
 func (s *model) Release(seq int) api.Errno {
-	if s.stop != api.OK {
-		return s.stop
+	if e := s.Stopped(); e != api.OK {
+		return e
 	}
 	i := slices.Index(s.taken, seq)
 	if i < 0 {
@@ -196,16 +196,22 @@ func (s *model) Release(seq int) api.Errno {
 }
 
 func (s *model) Held() int {
-	if s.stop != api.OK {
+	if s.Stopped() != api.OK {
 		return 0
 	}
 	return len(s.taken)
 }
 
-func (s *model) Stopped() api.Errno { return s.stop }
+// Stopped is asked by all others: each of them sees that the file system is off.
+func (s *model) Stopped() api.Errno {
+	if s.stop == api.OK && !s.f.On() {
+		s.stop = api.ErrOff
+	}
+	return s.stop
+}
 
 func (s *model) Tables() []api.Meta {
-	if s.stop != api.OK {
+	if s.Stopped() != api.OK {
 		return nil
 	}
 	return s.m.Version().Tables
@@ -223,7 +229,7 @@ func (s *model) level(n int) []api.Meta {
 }
 
 func (s *model) Due() int {
-	if s.stop != api.OK {
+	if s.Stopped() != api.OK {
 		return 0
 	}
 	for i, times := range []int{1, 4, 16, 64, 256, 1024} {
@@ -310,8 +316,8 @@ func (s *model) bring(words []api.Meta, bytes [][]byte, edit api.Edit) api.Errno
 }
 
 func (s *model) Flush() api.Errno {
-	if s.stop != api.OK {
-		return s.stop
+	if e := s.Stopped(); e != api.OK {
+		return e
 	}
 	if len(s.recent) == 0 {
 		return api.OK
@@ -383,8 +389,8 @@ func fold(l []api.Entry, at []int, last bool) []api.Entry {
 }
 
 func (s *model) Compact(level int) api.Errno {
-	if s.stop != api.OK {
-		return s.stop
+	if e := s.Stopped(); e != api.OK {
+		return e
 	}
 	if level < 0 || level > 5 {
 		return api.ErrArg
@@ -441,6 +447,7 @@ type twin struct {
 	set   api.Settings
 	store *Store
 	model *model
+	aside bool // the file system went off aside of the store's calls, and none was done since
 }
 
 // twins is such a pair over two file systems that a function makes.
@@ -474,7 +481,7 @@ func (w *twin) same(what string) {
 	if got, want := look(w.f), look(w.g); got != want {
 		w.t.Fatalf("%s left\n%s\nnot\n%s", what, got, want)
 	}
-	if w.store == nil {
+	if w.store == nil || w.aside {
 		return
 	}
 	if got, want := tell(w.store), tell(w.model); got != want {
@@ -486,6 +493,7 @@ func (w *twin) same(what string) {
 func (w *twin) do(what string, call func(s asked) string) string {
 	w.t.Helper()
 	got, want := call(w.store), call(w.model)
+	w.aside = false
 	if got != want {
 		w.t.Fatalf("%s: %s, not %s", what, got, want)
 	}
@@ -497,7 +505,7 @@ func (w *twin) do(what string, call func(s asked) string) string {
 func (w *twin) crash(k, t int) {
 	w.t.Helper()
 	done(w.t, w.f.Crash(k, t), w.g.Crash(k, t))
-	w.store, w.model = nil, nil
+	w.store, w.model, w.aside = nil, nil, false
 	w.same("Crash")
 }
 

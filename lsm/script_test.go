@@ -45,6 +45,9 @@ func (w *twin) act(c [4]byte) string {
 	case 26:
 		return w.both("Fuse", func(f *vfs.FS) api.Errno { return f.Fuse(n % 64) })
 	case 27:
+		if n%4 > 0 {
+			return w.both("SyncNames", func(f *vfs.FS) api.Errno { f.Fuse(0); return f.SyncNames() })
+		}
 		return w.both("Safe", (*vfs.FS).Safe)
 	case 28:
 		return w.both("a file in the way", func(f *vfs.FS) api.Errno { return f.Create([]string{named(m % 20), segment(m % 20)}[n%2]) })
@@ -66,6 +69,7 @@ func (w *twin) act(c [4]byte) string {
 func (w *twin) both(what string, call func(f *vfs.FS) api.Errno) string {
 	w.t.Helper()
 	got, want := call(w.f), call(w.g)
+	w.aside = w.store != nil && !w.f.On()
 	if got != want {
 		w.t.Fatalf("%s: %d, not %d", what, got, want)
 	}
@@ -119,13 +123,18 @@ func plays(t testing.TB, room int, set api.Settings, b []byte) map[string]int {
 	t.Helper()
 	w := twins(t, set, func() *vfs.FS { return newFS(t, room) })
 	seen := map[string]int{}
+	var aside bool
 	for ; len(b) >= 4; b = b[4:] {
 		what := w.act([4]byte(b))
 		var call string
 		var e int
 		fmt.Sscanf(what, "%s %d", &call, &e)
 		seen[fmt.Sprint(call, " ", e)]++
-		if w.store != nil && w.store.Stopped() != api.OK {
+		if aside && !w.aside {
+			seen["aside, then "+call]++
+		}
+		aside = w.aside
+		if w.store != nil && !aside && w.store.Stopped() != api.OK {
 			seen[fmt.Sprint("stopped ", int(w.store.Stopped()))]++
 			if !w.f.On() {
 				w.crash(int(b[1])%8, int(b[2])%70)
@@ -153,6 +162,7 @@ func TestScripts(t *testing.T) {
 	for _, what := range []string{
 		"Open 0", "Open 2", "Open 6", "Open 7", "Open 8", "Apply 0", "Apply 2", "Apply 9", "Apply 7", "Apply 8", "Flush 0", "Flush 7", "Flush 8", "Flush 9",
 		"Compact 0", "Compact 2", "Compact 7", "Compact 8", "Get 0", "Get 17", "Scan 0", "Scan 2", "Scan 17", "Snapshot 0", "Release 0", "Release 2", "stopped 7",
+		"aside, then Apply", "aside, then Flush", "aside, then Compact", "aside, then Snapshot", "aside, then Release", "aside, then Get", "aside, then Scan",
 	} {
 		if seen[what] < 10 {
 			t.Errorf("%s: %d times", what, seen[what])
